@@ -284,7 +284,7 @@ func (d *dice) step(t *testing.T, b *book.Book) {
 
 // P16.1, P16.2: long runs of thrown calls on books that are set to anything, against a model.
 func TestAgainstModel(t *testing.T) {
-	runs, full := 36, 0
+	runs, full := 24, 0
 	if testing.Short() {
 		runs = 4
 	}

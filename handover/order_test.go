@@ -177,7 +177,7 @@ func (p *party) rests(t *testing.T, d *dice) {
 
 // P16.4: of two and more carriers whose messages come in order, each once, just one controls each coupon, or just one message hands it on; and all that was asked is answered when all have come.
 func TestControl(t *testing.T) {
-	runs := 150
+	runs := 70
 	if testing.Short() {
 		runs = 14
 	}
